@@ -27,16 +27,16 @@ func textsOf(alphabet string, most int) []string {
 }
 
 // listsOf returns all lists of 1 to most elements of a choice.
-func listsOf(choice []string, most int) [][]string {
-	all := [][]string{}
-	for _, s := range choice {
-		all = append(all, []string{s})
+func listsOf[T any](choice []T, most int) [][]T {
+	all := [][]T{}
+	for _, one := range choice {
+		all = append(all, []T{one})
 	}
 	for first := 0; most > 1; most-- {
 		last := len(all)
 		for _, l := range all[first:last] {
-			for _, s := range choice {
-				all = append(all, append(slices.Clone(l), s))
+			for _, one := range choice {
+				all = append(all, append(slices.Clone(l), one))
 			}
 		}
 		first = last
