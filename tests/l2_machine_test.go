@@ -885,40 +885,48 @@ func spread(p impl.Program) (impl.Program, [][]impl.Step) {
 	return impl.Program{Functions: append(whole, nil, body(exit()))[:len(p.Functions)]}, behind
 }
 
+// checkUnmodified lets functions use a Program in longer memory, and checks that all of it stays.
+func checkUnmodified(t *testing.T, p impl.Program, use func(given impl.Program)) {
+	t.Helper()
+	given, behind := spread(p)
+	before := [][]impl.Step{}
+	for _, b := range behind {
+		before = append(before, slices.Clone(b))
+	}
+	use(given)
+	whole := given.Functions[:len(p.Functions)+2]
+	if !sameProgram(given, p) || !slices.EqualFunc(behind, before, slices.Equal[[]impl.Step]) || whole[len(p.Functions)] != nil || len(whole[len(p.Functions)+1]) != 1 {
+		t.Fatalf("modified %s", textByRule(p))
+	}
+}
+
 func TestPromise13MachinesModifyNothing(t *testing.T) {
 	for _, p := range append(randomPrograms(9, 300), invalidPrograms()[:22]...) {
-		given, behind := spread(p)
-		before := [][]impl.Step{}
-		for _, b := range behind {
-			before = append(before, slices.Clone(b))
-		}
-		for f := -1; f <= len(p.Functions); f++ {
-			one, _ := impl.RunProgram(given, f, 1, impl.MaxFuel)
-			two, _ := impl.RunProgram(given, f, 1, impl.MaxFuel)
-			if !sameOutcome(one, two) {
-				t.Fatalf("another outcome of %s", textByRule(p))
-			}
-			for at := -1; at <= impl.MaxBody; at++ {
-				more, _ := impl.PutStep(given, f, at, jump(2, 1))
-				again, _ := impl.PutStep(given, f, at, jump(2, 1))
-				less, _ := impl.DropStep(given, f, at)
-				fewer, _ := impl.DropStep(given, f, at)
-				if !sameProgram(more, again) || !sameProgram(less, fewer) {
-					t.Fatalf("another program of %s", textByRule(p))
+		checkUnmodified(t, p, func(given impl.Program) {
+			for f := -1; f <= len(p.Functions); f++ {
+				one, _ := impl.RunProgram(given, f, 1, impl.MaxFuel)
+				two, _ := impl.RunProgram(given, f, 1, impl.MaxFuel)
+				if !sameOutcome(one, two) {
+					t.Fatalf("another outcome of %s", textByRule(p))
 				}
+				for at := -1; at <= impl.MaxBody; at++ {
+					more, _ := impl.PutStep(given, f, at, jump(2, 1))
+					again, _ := impl.PutStep(given, f, at, jump(2, 1))
+					less, _ := impl.DropStep(given, f, at)
+					fewer, _ := impl.DropStep(given, f, at)
+					if !sameProgram(more, again) || !sameProgram(less, fewer) {
+						t.Fatalf("another program of %s", textByRule(p))
+					}
+				}
+				impl.SaidNumbers(given, f, 1, 50)
+				impl.DeepestCall(given, f, 1, 50)
+				impl.FuelOf(given, f, 1)
+				impl.CalledBy(given, f)
+				impl.ReachedFrom(given, f)
 			}
-			impl.SaidNumbers(given, f, 1, 50)
-			impl.DeepestCall(given, f, 1, 50)
-			impl.FuelOf(given, f, 1)
-			impl.CalledBy(given, f)
-			impl.ReachedFrom(given, f)
-		}
-		impl.ProgramText(given)
-		impl.IsStep(given, exit())
-		whole := given.Functions[:len(p.Functions)+2]
-		if !sameProgram(given, p) || !slices.EqualFunc(behind, before, slices.Equal[[]impl.Step]) || whole[len(p.Functions)] != nil || len(whole[len(p.Functions)+1]) != 1 {
-			t.Fatalf("modified %s", textByRule(p))
-		}
+			impl.ProgramText(given)
+			impl.IsStep(given, exit())
+		})
 	}
 }
 
@@ -933,16 +941,12 @@ func overwrite(p impl.Program) {
 	}
 }
 
-func TestPromise13ProgramsThatAreReturnedAreApart(t *testing.T) {
-	p := program(body(say(0), jump(1, 0), later(1, 2)), body(save(0)), body(exit(), call(0, 1)))
+// checkProgramsApart builds Programs again and again, and checks that they share no memory with
+// each other or with p.
+func checkProgramsApart(t *testing.T, p impl.Program, builds ...func() (impl.Program, bool)) {
+	t.Helper()
 	before := copied(p)
-	for _, build := range []func() (impl.Program, bool){
-		func() (impl.Program, bool) { return impl.PutStep(p, 1, 1, say(2)) },
-		func() (impl.Program, bool) { return impl.PutStep(p, 0, 3, say(2)) },
-		func() (impl.Program, bool) { return impl.DropStep(p, 0, 1) },
-		func() (impl.Program, bool) { return impl.DropStep(p, 2, 1) },
-		func() (impl.Program, bool) { return impl.ParseProgram("3.0.0 11.1.0 5.1.2/7.0.0//10.0.0 4.0.1") },
-	} {
+	for _, build := range builds {
 		first, one := build()
 		second, two := build()
 		want := copied(second)
@@ -958,6 +962,17 @@ func TestPromise13ProgramsThatAreReturnedAreApart(t *testing.T) {
 			}
 		}
 	}
+}
+
+func TestPromise13ProgramsThatAreReturnedAreApart(t *testing.T) {
+	p := program(body(say(0), jump(1, 0), later(1, 2)), body(save(0)), body(exit(), call(0, 1)))
+	checkProgramsApart(t, p,
+		func() (impl.Program, bool) { return impl.PutStep(p, 1, 1, say(2)) },
+		func() (impl.Program, bool) { return impl.PutStep(p, 0, 3, say(2)) },
+		func() (impl.Program, bool) { return impl.DropStep(p, 0, 1) },
+		func() (impl.Program, bool) { return impl.DropStep(p, 2, 1) },
+		func() (impl.Program, bool) { return impl.ParseProgram("3.0.0 11.1.0 5.1.2/7.0.0//10.0.0 4.0.1") },
+	)
 }
 
 func TestPromise13ListsOfRunsAreApart(t *testing.T) {

@@ -39,13 +39,17 @@ type modelCall struct {
 	waiting      [][2]int
 	deferred     bool
 	bodyEnded    bool
+	ended        bool
 	leaving      bool
 	counted      bool
 	kind, value  int
+	// What is told of it when the run is over.
+	number, parent, depth int
+	put, ran              [][2]int
 }
 
 // modelRun runs a Program as chapter 2 says it, beside the program: with a stack of its own
-// instead of calls of Go.
+// instead of calls of Go. It writes down what chapter 3 tells of calls while they are made.
 type modelRun struct {
 	p       impl.Program
 	stack   []*modelCall
@@ -53,10 +57,19 @@ type modelRun struct {
 	deepest int
 	stopped bool
 	out     impl.Outcome
+	calls   []*modelCall
+	owners  []int
+	results [][2]int
 }
 
 // modelOutcome returns the Outcome of a run and how deep its calls were.
 func modelOutcome(p impl.Program, f int, arg int, fuel int) (impl.Outcome, int) {
+	m := modelOf(p, f, arg, fuel)
+	return m.out, m.deepest
+}
+
+// modelOf runs a Program to its end, or until all is spent.
+func modelOf(p impl.Program, f int, arg int, fuel int) *modelRun {
 	m := &modelRun{p: p}
 	m.open(f, arg, false)
 	for len(m.stack) > 0 && !m.stopped {
@@ -80,11 +93,12 @@ func modelOutcome(p impl.Program, f int, arg int, fuel int) (impl.Outcome, int) 
 	if m.stopped {
 		m.out.Kind, m.out.Value = impl.OutSpent, 0
 	}
-	return m.out, m.deepest
+	return m
 }
 
 func (m *modelRun) event(kind int, function int, value int) {
 	m.out.Trace = append(m.out.Trace, event(kind, function, value))
+	m.owners = append(m.owners, m.stack[len(m.stack)-1].number)
 }
 
 func (m *modelRun) open(f int, arg int, deferred bool) {
@@ -92,7 +106,16 @@ func (m *modelRun) open(f int, arg int, deferred bool) {
 		m.stopped = true
 		return
 	}
-	m.stack = append(m.stack, &modelCall{function: f, reg: [4]int{arg}, deferred: deferred})
+	c := &modelCall{function: f, reg: [4]int{arg}, deferred: deferred, number: len(m.calls), parent: -1, depth: len(m.stack) + 1}
+	if len(m.stack) > 0 {
+		above := m.stack[len(m.stack)-1]
+		c.parent = above.number
+		if deferred {
+			above.ran = append(above.ran, [2]int{f, arg})
+		}
+	}
+	m.calls = append(m.calls, c)
+	m.stack = append(m.stack, c)
 	m.deepest = max(m.deepest, len(m.stack))
 	if deferred {
 		m.event(impl.EventRun, f, arg)
@@ -106,9 +129,11 @@ func (m *modelRun) endBody(c *modelCall, kind int, value int) {
 }
 
 func (m *modelRun) close(c *modelCall) {
+	c.ended = true
 	switch c.kind {
 	case impl.OutReturned:
 		c.value = c.reg[1]
+		m.results = append(m.results, [2]int{c.function, c.value})
 		m.event(impl.EventReturn, c.function, c.value)
 	case impl.OutPanicked:
 		m.event(impl.EventUnwind, c.function, c.value)
@@ -149,6 +174,7 @@ func (m *modelRun) step(c *modelCall) {
 	case impl.StepDefer:
 		m.event(impl.EventDefer, s.A, c.reg[s.B])
 		c.waiting = append(c.waiting, [2]int{s.A, c.reg[s.B]})
+		c.put = append(c.put, [2]int{s.A, c.reg[s.B]})
 	case impl.StepPanic:
 		m.event(impl.EventPanic, c.function, c.reg[s.A])
 		m.endBody(c, impl.OutPanicked, c.reg[s.A])
