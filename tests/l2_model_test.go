@@ -46,10 +46,20 @@ type modelCall struct {
 	// What is told of it when the run is over.
 	number, parent, depth int
 	put, ran              [][2]int
+	on                    *modelPanic
+}
+
+// modelPanic is a panic of modelRun, with what is told of it. Its chain has the values of all
+// panics that lead to it so far, and its own.
+type modelPanic struct {
+	number, function, value, depth int
+	fate, replacer                 int
+	unwound, chain                 []int
 }
 
 // modelRun runs a Program as chapter 2 says it, beside the program: with a stack of its own
-// instead of calls of Go. It writes down what chapter 3 tells of calls while they are made.
+// instead of calls of Go. It writes down what chapter 3 tells of calls, and chapter 4 of panics,
+// while they are made.
 type modelRun struct {
 	p       impl.Program
 	stack   []*modelCall
@@ -60,6 +70,8 @@ type modelRun struct {
 	calls   []*modelCall
 	owners  []int
 	results [][2]int
+	panics  []*modelPanic
+	saved   [][2]int
 }
 
 // modelOutcome returns the Outcome of a run and how deep its calls were.
@@ -136,6 +148,7 @@ func (m *modelRun) close(c *modelCall) {
 		m.results = append(m.results, [2]int{c.function, c.value})
 		m.event(impl.EventReturn, c.function, c.value)
 	case impl.OutPanicked:
+		c.on.unwound = append(c.on.unwound, c.function)
 		m.event(impl.EventUnwind, c.function, c.value)
 	case impl.OutExited:
 		m.event(impl.EventExit, c.function, 0)
@@ -143,10 +156,14 @@ func (m *modelRun) close(c *modelCall) {
 	m.stack = m.stack[:len(m.stack)-1]
 	if len(m.stack) == 0 {
 		m.out.Kind, m.out.Value = c.kind, c.value
+		if c.kind == impl.OutPanicked {
+			c.on.fate = impl.FateArrived
+		}
 		return
 	}
 	above := m.stack[len(m.stack)-1]
 	above.leaving = above.leaving || c.leaving
+	m.passOn(c, above)
 	switch {
 	case !c.deferred && c.kind == impl.OutReturned:
 		above.reg[2] = c.value
@@ -156,6 +173,21 @@ func (m *modelRun) close(c *modelCall) {
 		m.endBody(above, impl.OutExited, 0)
 	case c.counted:
 		m.endBody(above, impl.OutReturned, 0)
+	}
+}
+
+// passOn writes down what the end of a call makes of the panic that is on in the call above it.
+func (m *modelRun) passOn(c *modelCall, above *modelCall) {
+	if old := above.on; c.deferred && old != nil && c.kind != impl.OutReturned {
+		above.on = nil
+		old.fate = impl.FateLost
+		if c.kind == impl.OutPanicked {
+			old.fate, old.replacer = impl.FateReplaced, c.on.number
+			c.on.chain = append(slices.Clone(old.chain), c.on.value)
+		}
+	}
+	if c.kind == impl.OutPanicked {
+		above.on = c.on
 	}
 }
 
@@ -177,6 +209,8 @@ func (m *modelRun) step(c *modelCall) {
 		c.put = append(c.put, [2]int{s.A, c.reg[s.B]})
 	case impl.StepPanic:
 		m.event(impl.EventPanic, c.function, c.reg[s.A])
+		c.on = &modelPanic{number: len(m.panics), function: c.function, value: c.reg[s.A], depth: len(m.stack), replacer: -1, chain: []int{c.reg[s.A]}}
+		m.panics = append(m.panics, c.on)
 		m.endBody(c, impl.OutPanicked, c.reg[s.A])
 	case impl.StepRecover:
 		m.recover(c, s.A)
@@ -212,6 +246,9 @@ func (m *modelRun) recover(c *modelCall, r int) {
 	c.reg[3] = counts
 	if counts == 1 {
 		c.counted = true
+		above := m.stack[len(m.stack)-2]
+		m.saved = append(m.saved, [2]int{above.on.number, c.function})
+		above.on.fate, above.on = impl.FateRecovered, nil
 		m.event(impl.EventRecover, c.function, value)
 	}
 }
