@@ -47,6 +47,7 @@ type modelCall struct {
 	number, parent, depth int
 	put, ran              [][2]int
 	on                    *modelPanic
+	saved                 bool
 }
 
 // modelPanic is a panic of modelRun, with what is told of it. Its chain has the values of all
@@ -58,8 +59,8 @@ type modelPanic struct {
 }
 
 // modelRun runs a Program as chapter 2 says it, beside the program: with a stack of its own
-// instead of calls of Go. It writes down what chapter 3 tells of calls, and chapter 4 of panics,
-// while they are made.
+// instead of calls of Go. It writes down what chapter 3 tells of calls, chapter 4 of panics, and
+// chapter 5 of recoveries, while they are made.
 type modelRun struct {
 	p       impl.Program
 	stack   []*modelCall
@@ -72,6 +73,10 @@ type modelRun struct {
 	results [][2]int
 	panics  []*modelPanic
 	saved   [][2]int
+	// What chapter 5 tells: the numbers of the calls that are saved, and how much deeper their
+	// panics were made.
+	savedCalls, gaps []int
+	rethrows         int
 }
 
 // modelOutcome returns the Outcome of a run and how deep its calls were.
@@ -211,6 +216,9 @@ func (m *modelRun) step(c *modelCall) {
 		m.event(impl.EventPanic, c.function, c.reg[s.A])
 		c.on = &modelPanic{number: len(m.panics), function: c.function, value: c.reg[s.A], depth: len(m.stack), replacer: -1, chain: []int{c.reg[s.A]}}
 		m.panics = append(m.panics, c.on)
+		if c.counted {
+			m.rethrows++
+		}
 		m.endBody(c, impl.OutPanicked, c.reg[s.A])
 	case impl.StepRecover:
 		m.recover(c, s.A)
@@ -248,6 +256,9 @@ func (m *modelRun) recover(c *modelCall, r int) {
 		c.counted = true
 		above := m.stack[len(m.stack)-2]
 		m.saved = append(m.saved, [2]int{above.on.number, c.function})
+		m.savedCalls = append(m.savedCalls, above.number)
+		m.gaps = append(m.gaps, above.on.depth-above.depth)
+		above.saved = true
 		above.on.fate, above.on = impl.FateRecovered, nil
 		m.event(impl.EventRecover, c.function, value)
 	}
