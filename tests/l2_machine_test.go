@@ -986,20 +986,28 @@ func TestPromise13ListsOfRunsAreApart(t *testing.T) {
 	if !slices.Equal(two.Trace, want) {
 		t.Error("traces share memory", two)
 	}
-	for _, tell := range []func() ([]int, bool){
+	checkListsApart(t,
 		func() ([]int, bool) { return impl.SaidNumbers(p, 0, 4, 99) },
 		func() ([]int, bool) { return impl.CalledBy(p, 0) },
 		func() ([]int, bool) { return impl.ReachedFrom(p, 0) },
-	} {
+	)
+}
+
+// checkListsApart tells lists again and again, and checks that they share no memory with each
+// other.
+func checkListsApart(t *testing.T, tells ...func() ([]int, bool)) {
+	t.Helper()
+	for i, tell := range tells {
 		first, _ := tell()
-		second, _ := tell()
+		second, ok := tell()
 		want := slices.Clone(second)
-		for i := range first {
-			first[i] = -7
+		first = first[:cap(first)]
+		for at := range first {
+			first[at] = -7
 		}
 		third, _ := tell()
-		if !slices.Equal(second, want) || !slices.Equal(third, want) || len(want) == 0 {
-			t.Error("lists share memory", second, third)
+		if !ok || !slices.Equal(second, want) || !slices.Equal(third, want) || len(want) == 0 {
+			t.Error("lists share memory", i, second, third)
 		}
 	}
 }

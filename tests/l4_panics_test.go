@@ -556,13 +556,20 @@ func TestPromise4ChainsRefuseRunsThatDoNotPanic(t *testing.T) {
 	}
 }
 
+// rangeEnds are the numbers about which it turns whether a low and a high are a range.
+var rangeEnds = []int{math.MinInt, math.MinInt + 1, -1 << 32, -32869, -32769, -32768, -32767, -32668, -32667, -101, -100, -1, 0, 1, 99, 100, 101,
+	32666, 32667, 32668, 32766, 32767, 32768, 32867, 65536, 1 << 32, math.MaxInt - 1, math.MaxInt}
+
+// validRange tells as chapter 4 says it whether a low and a high are a range of arguments.
+func validRange(low int, high int) bool {
+	return -32768 <= low && low <= 32767 && -32768 <= high && high <= 32767 && low <= high && high-low <= 100
+}
+
 func TestPromise4RangesRefuseOthers(t *testing.T) {
 	p := program(body(throw(0)), nil)
-	ends := []int{math.MinInt, math.MinInt + 1, -1 << 32, -32869, -32769, -32768, -32767, -32668, -32667, -101, -100, -1, 0, 1, 99, 100, 101,
-		32666, 32667, 32668, 32766, 32767, 32768, 32867, 65536, 1 << 32, math.MaxInt - 1, math.MaxInt}
-	for _, low := range ends {
-		for _, high := range ends {
-			valid := -32768 <= low && low <= 32767 && -32768 <= high && high <= 32767 && low <= high && high-low <= 100
+	for _, low := range rangeEnds {
+		for _, high := range rangeEnds {
+			valid := validRange(low, high)
 			for _, f := range []int{math.MinInt, -1, 0, 1, 2, math.MaxInt} {
 				for _, fuel := range []int{math.MinInt, -1, 0, 1, 200, 201, math.MaxInt} {
 					want := valid && (f == 0 || f == 1) && 0 <= fuel && fuel <= 200

@@ -1279,22 +1279,13 @@ func TestPromise13ErrorsThatAreReturnedAreApart(t *testing.T) {
 func TestPromise13ListsOfErrorsAreApart(t *testing.T) {
 	e := errorsOf(joinOf(3, 1, 3), wrapOf(5, 2), plainOf(7), likeOf(8))
 	before := copiedErrors(e)
-	for i, tell := range []func() ([]int, bool){
+	checkListsApart(t,
 		func() ([]int, bool) { return impl.WalkOf(e, 0) },
 		func() ([]int, bool) { return impl.UnwrapError(e, 0) },
 		func() ([]int, bool) { return impl.UnwrapError(e, 1) },
 		func() ([]int, bool) { return impl.LeavesOf(e, 0) },
-	} {
-		first, _ := tell()
-		second, _ := tell()
-		want := slices.Clone(second)
-		first = first[:cap(first)]
-		for at := range first {
-			first[at] = -7
-		}
-		third, _ := tell()
-		if !slices.Equal(second, want) || !slices.Equal(third, want) || len(want) == 0 || !sameErrors(e, before) {
-			t.Error("lists share memory", i, second, third, e)
-		}
+	)
+	if !sameErrors(e, before) {
+		t.Error("lists share memory with the errors", e)
 	}
 }
