@@ -60,7 +60,8 @@ type modelPanic struct {
 
 // modelRun runs a Program as chapter 2 says it, beside the program: with a stack of its own
 // instead of calls of Go. It writes down what chapter 3 tells of calls, chapter 4 of panics, and
-// chapter 5 of recoveries, while they are made.
+// chapter 5 of recoveries, while they are made. What it has at the end as shared is what the run
+// leaves.
 type modelRun struct {
 	p       impl.Program
 	stack   []*modelCall
@@ -77,6 +78,8 @@ type modelRun struct {
 	// panics were made.
 	savedCalls, gaps []int
 	rethrows         int
+	// What chapter 10 tells: the functions of the calls that exit.
+	exiting []int
 }
 
 // modelOutcome returns the Outcome of a run and how deep its calls were.
@@ -87,7 +90,12 @@ func modelOutcome(p impl.Program, f int, arg int, fuel int) (impl.Outcome, int) 
 
 // modelOf runs a Program to its end, or until all is spent.
 func modelOf(p impl.Program, f int, arg int, fuel int) *modelRun {
-	m := &modelRun{p: p}
+	return modelFrom(p, f, arg, fuel, 0)
+}
+
+// modelFrom runs a Program in the same way, but begins with a shared number.
+func modelFrom(p impl.Program, f int, arg int, fuel int, shared int) *modelRun {
+	m := &modelRun{p: p, shared: shared}
 	m.open(f, arg, false)
 	for len(m.stack) > 0 && !m.stopped {
 		c := m.stack[len(m.stack)-1]
@@ -156,6 +164,7 @@ func (m *modelRun) close(c *modelCall) {
 		c.on.unwound = append(c.on.unwound, c.function)
 		m.event(impl.EventUnwind, c.function, c.value)
 	case impl.OutExited:
+		m.exiting = append(m.exiting, c.function)
 		m.event(impl.EventExit, c.function, 0)
 	}
 	m.stack = m.stack[:len(m.stack)-1]
