@@ -59,9 +59,9 @@ type modelPanic struct {
 }
 
 // modelRun runs a Program as chapter 2 says it, beside the program: with a stack of its own
-// instead of calls of Go. It writes down what chapter 3 tells of calls, chapter 4 of panics, and
-// chapter 5 of recoveries, while they are made. What it has at the end as shared is what the run
-// leaves.
+// instead of calls of Go. It writes down what chapter 3 tells of calls, chapter 4 of panics,
+// chapter 5 of recoveries, and chapter 11 of Steps, while they are made. What it has at the end as
+// shared is what the run leaves.
 type modelRun struct {
 	p       impl.Program
 	stack   []*modelCall
@@ -80,6 +80,8 @@ type modelRun struct {
 	rethrows         int
 	// What chapter 10 tells: the functions of the calls that exit.
 	exiting []int
+	// What chapter 11 tells: the Steps that are made, by functions and places.
+	made [6][8]bool
 }
 
 // modelOutcome returns the Outcome of a run and how deep its calls were.
@@ -207,6 +209,7 @@ func (m *modelRun) passOn(c *modelCall, above *modelCall) {
 
 func (m *modelRun) step(c *modelCall) {
 	s := m.p.Functions[c.function][c.at]
+	m.made[c.function][c.at] = true
 	c.at++
 	switch s.Kind {
 	case impl.StepSet:
